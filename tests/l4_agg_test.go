@@ -247,7 +247,7 @@ func eachBracket(t *testing.T, row []impl.Agg, tell func(impl.Agg)) {
 	}
 }
 
-func eachOrder(row []impl.Agg, from int, tell func([]impl.Agg)) {
+func eachOrder[T any](row []T, from int, tell func([]T)) {
 	if from == len(row) {
 		tell(slices.Clone(row))
 		return
